@@ -7,9 +7,7 @@ import (
 	"testing"
 
 	"tarn/api"
-	"tarn/conf"
 	"tarn/decide"
-	"tarn/msg"
 	"tarn/node"
 )
 
@@ -225,8 +223,5 @@ func TestNone(t *testing.T) {
 	zero := &node.Node{}
 	if zero.Start() || zero.Wipe() {
 		t.Error("one that was not made")
-	}
-	if !conf.None(api.Conf{}) || !msg.Same(api.Msg{}, api.Msg{}) {
-		t.Error("never")
 	}
 }
