@@ -226,4 +226,7 @@ func TestNone(t *testing.T) {
 	if x.Phase() != api.TakeLost || !conf.None(x.Conf()) || x.Say() != nil || x.Hear(state(api.State{})) {
 		t.Error("of none")
 	}
+	if zero := (&take.Take{}); zero.Hear(api.Msg{Kind: api.MsgState}) {
+		t.Error("one that was not made")
+	}
 }
