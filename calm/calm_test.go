@@ -70,14 +70,14 @@ func TestRounds(t *testing.T) {
 			t.Error(most)
 		}
 	}
-	if calm.Rounds(w, math.MaxInt) != api.MostRounds || calm.Rounds(nil, 5) != 0 {
+	if calm.Rounds(w, math.MaxInt) != api.MostRounds || calm.Rounds(nil, 5) != 5 {
 		t.Error("MostRounds")
 	}
 }
 
 func TestUntil(t *testing.T) {
 	w := fresh()
-	if calm.Until(w, 5, 9) != 9 || calm.Until(w, 9, 3) != 3 || calm.Until(nil, 5, 3) != 0 {
+	if calm.Until(w, 5, 9) != 9 || calm.Until(w, 9, 3) != 3 || calm.Until(nil, 5, 3) != 3 {
 		t.Error("it does not serve")
 	}
 	w.Do(api.Act{What: api.ActTake, Who: 5, Mirrors: []int{3}, Chain: []int{0}})

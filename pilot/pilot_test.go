@@ -36,7 +36,7 @@ func TestNew(t *testing.T) {
 	}
 	var p *pilot.Pilot
 	w := fresh()
-	if p.Step(w) != api.PilotWaits || p.Fly(w, 9) != [4]int{} || pilot.New(course()).Step(nil) != api.PilotWaits || pilot.New(course()).Fly(nil, 5) != [4]int{} {
+	if p.Step(w) != api.PilotWaits || p.Fly(w, 9) != [4]int{} || pilot.New(course()).Step(nil) != api.PilotWaits || pilot.New(course()).Fly(nil, 5) != [4]int{5} {
 		t.Error("of none")
 	}
 	if (&pilot.Pilot{}).Step(w) != api.PilotWaits {

@@ -73,12 +73,20 @@ func play(t *testing.T, seed uint64, many int) *world.World {
 			calm.Rounds(w, s.Below(12))
 		case 2:
 			serve(t, seed, w, s)
+		case 3:
+			lose(w, api.Voters+s.Below(api.Nodes-api.Voters))
 		}
 		if wrong := audit.All(w); wrong != 0 {
 			t.Fatal("seed", seed, "wrong", wrong)
 		}
 	}
 	return w
+}
+
+// lose lets a node's disk be lost, if it may be.
+func lose(w *world.World, n int) {
+	w.Do(api.Act{What: api.ActCrash, Who: n})
+	admit.Play(w, []api.Act{{What: api.ActWipe, Who: n}, {What: api.ActStart, Who: n}})
 }
 
 // serve lets a gateway serve, in the midst of a script.
