@@ -1,6 +1,8 @@
 package cache_test
 
 import (
+	"math"
+	"reflect"
 	"strings"
 	"testing"
 
@@ -40,6 +42,58 @@ func TestCache(t *testing.T) {
 	}
 }
 
+// noBlocks is numbers that no block has.
+func noBlocks() []int {
+	return []int{api.MostBlocks, api.MostBlocks + 1, -1, math.MaxInt, math.MinInt}
+}
+
+func TestNoSuchBlock(t *testing.T) {
+	for _, block := range noBlocks() {
+		c := cache.New(1)
+		c.Put(block, of(5))
+		if x, ok := c.Get(block); x != (api.Item{}) || ok || c.Len() != 0 || c.Arc().Has(block) {
+			t.Error("kept", block)
+		}
+		c.Put(block, api.Item{Ver: 5})
+		if _, ok := c.Get(block); ok || c.Len() != 0 {
+			t.Error("noughts are kept", block)
+		}
+	}
+}
+
+func TestNothingGoesForNoSuchBlock(t *testing.T) {
+	last := api.MostBlocks - 1
+	for _, block := range noBlocks() {
+		c := cache.New(2)
+		c.Put(7, of(7))
+		c.Put(7, of(7))
+		c.Put(last, of(1))
+		c.Put(3, of(3))
+		c.Put(0, of(2))
+		lists, want := c.Arc().Lists(), c.Arc().Want()
+		c.Put(block, of(9))
+		c.Put(block, of(10))
+		c.Get(block)
+		c.Drop(block)
+		if !reflect.DeepEqual(c.Arc().Lists(), lists) || c.Arc().Want() != want || c.Len() != 2 {
+			t.Error("something else is kept, or remembered", block, c.Arc().Lists())
+		}
+		if x, ok := c.Get(0); x != of(2) || !ok {
+			t.Error("gone for", block, x)
+		}
+	}
+}
+
+func TestFirstAndLastBlock(t *testing.T) {
+	c := cache.New(2)
+	for _, block := range []int{0, api.MostBlocks - 1} {
+		c.Put(block, of(4))
+		if x, ok := c.Get(block); x != of(4) || !ok {
+			t.Error(block, x)
+		}
+	}
+}
+
 func TestGetOfNothingIsNoUse(t *testing.T) {
 	c := cache.New(1)
 	c.Put(1, of(1))
@@ -55,10 +109,10 @@ func TestRoom(t *testing.T) {
 		t.Error("no room")
 	}
 	c = cache.New(999)
-	for b := range 300 {
+	for b := range api.MostBlocks {
 		c.Put(b, of(uint64(b)))
 	}
-	if c.Len() != api.MostArc {
+	if c.Len() != min(api.MostBlocks, api.MostArc) {
 		t.Error(c.Len())
 	}
 }
